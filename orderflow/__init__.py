@@ -1,0 +1,1 @@
+"""Orderflow: one customer's orders, delivered, sent back, paid and credited in parts."""

@@ -1,0 +1,60 @@
+"""Tests of the opening of the document's interface: names, arguments, and the file that defines each of them."""
+
+import ast
+import importlib
+import inspect
+import pathlib
+import unittest
+
+import orderflow
+
+PACKAGE = pathlib.Path(orderflow.__file__).parent
+
+# For each file of the interface: its functions with their arguments, and its classes.
+FUNCTIONS = {
+    "errors": {},
+    "lines": {"worth": ["pieces", "cents", "pack"]},
+}
+CLASSES = {
+    "errors": ["FlowError", "NoDeed", "NoLines", "NoItem", "NoNumber", "FullBook", "NoOrder", "SameOrder", "NoLine",
+               "TooMuch", "NothingDone"],
+    "lines": [],
+}
+
+
+def defined(name, kind):
+    """The names that a file defines itself, at its outermost level."""
+    tree = ast.parse((PACKAGE / (name + ".py")).read_text(encoding="utf-8"))
+    return [node.name for node in tree.body if isinstance(node, kind)]
+
+
+class TheInterface(unittest.TestCase):
+    def test_each_function_is_defined_in_its_file(self):
+        for name, functions in FUNCTIONS.items():
+            for function in functions:
+                with self.subTest(file=name, function=function):
+                    self.assertIn(function, defined(name, ast.FunctionDef))
+
+    def test_each_class_is_defined_in_its_file(self):
+        for name, classes in CLASSES.items():
+            for kind in classes:
+                with self.subTest(file=name, kind=kind):
+                    self.assertIn(kind, defined(name, ast.ClassDef))
+
+    def test_each_function_has_its_arguments(self):
+        for name, functions in FUNCTIONS.items():
+            module = importlib.import_module("orderflow." + name)
+            for function, arguments in functions.items():
+                with self.subTest(file=name, function=function):
+                    told = inspect.signature(getattr(module, function)).parameters
+                    self.assertEqual(list(told), arguments)
+
+    def test_the_package_is_one_folder_of_python_files(self):
+        self.assertEqual(PACKAGE.name, "orderflow")
+        self.assertTrue((PACKAGE / "__init__.py").is_file())
+        others = [path.name for path in PACKAGE.iterdir() if path.suffix != ".py" and path.name != "__pycache__"]
+        self.assertEqual(others, [])
+
+
+if __name__ == "__main__":
+    unittest.main()
