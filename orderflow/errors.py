@@ -6,7 +6,7 @@ class FlowError(ValueError):
 
 
 class NoDeed(FlowError):
-    """A deed's word is none of the eight, its parts are another number, or no text of a deed."""
+    """What is no deed: an unknown word, another number of parts, or a text that writes none."""
 
 
 class NoLines(FlowError):
@@ -38,7 +38,7 @@ class NoLine(FlowError):
 
 
 class TooMuch(FlowError):
-    """There are fewer pieces or cents than the deed asks for."""
+    """The deed asks for more pieces or cents than it may."""
 
 
 class NothingDone(FlowError):
