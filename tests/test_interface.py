@@ -7,6 +7,9 @@ import pathlib
 import unittest
 
 import orderflow
+from orderflow.book import Book
+from orderflow.matching import matched
+from orderflow.notes import played, read, shown
 
 PACKAGE = pathlib.Path(orderflow.__file__).parent
 
@@ -14,12 +17,21 @@ PACKAGE = pathlib.Path(orderflow.__file__).parent
 FUNCTIONS = {
     "errors": {},
     "lines": {"worth": ["pieces", "cents", "pack"]},
+    "matching": {"matched": ["changes"]},
+    "book": {},
+    "notes": {"shown": ["deed"], "read": ["text"], "played": ["texts"]},
 }
 CLASSES = {
     "errors": ["FlowError", "NoDeed", "NoLines", "NoItem", "NoNumber", "FullBook", "NoOrder", "SameOrder", "NoLine",
                "TooMuch", "NothingDone"],
     "lines": [],
+    "matching": [],
+    "book": ["Book"],
+    "notes": [],
 }
+# The methods of Book with their arguments.
+METHODS = {"do": ["deed"], "undo": [], "orders": [], "told": ["order"], "paid": ["order"], "owed": ["order"],
+           "rows": ["order"], "settled": ["order"], "net": []}
 
 
 def defined(name, kind):
@@ -48,6 +60,24 @@ class TheInterface(unittest.TestCase):
                 with self.subTest(file=name, function=function):
                     told = inspect.signature(getattr(module, function)).parameters
                     self.assertEqual(list(told), arguments)
+
+    def test_book_is_made_without_arguments(self):
+        self.assertEqual(list(inspect.signature(Book).parameters), [])
+
+    def test_each_method_is_defined_in_book_itself_with_its_arguments(self):
+        for method, arguments in METHODS.items():
+            with self.subTest(method=method):
+                self.assertIn(method, vars(Book))
+                self.assertEqual(list(inspect.signature(getattr(Book(), method)).parameters), arguments)
+
+    def test_arguments_by_their_names(self):
+        book = Book()
+        self.assertEqual(book.do(deed=read(text="order pen 5 120 1")), [])
+        self.assertEqual([book.told(order=0), book.paid(order=0), book.owed(order=0), book.rows(order=0),
+                          book.settled(order=0)], [[("pen", 5, 0, 0, 0, 0)], 0, 0, [], []])
+        self.assertEqual(matched(changes=[1, -1]), [(0, 1, 1)])
+        self.assertEqual(shown(deed=("pay", 0, 1)), "pay 0 1")
+        self.assertEqual(played(texts=["pay 0 1"]), ([None], []))
 
     def test_the_package_is_one_folder_of_python_files(self):
         self.assertEqual(PACKAGE.name, "orderflow")
